@@ -44,7 +44,7 @@ func madeSafe(d impl.Disk) impl.Disk {
 	return safe
 }
 
-// expectedWrite is what adding and making compact have in common: the bytes, and behind them the head.
+// expectedLaid is what adding and making compact have in common: the bytes, and behind them the head.
 func expectedLaid(a impl.Archive, area int, at int, b []byte) (impl.Archive, int) {
 	laid, ok := expectedAreaPut(a.Disk, area, at, b)
 	if !ok || a.Head.No == lastNo {
